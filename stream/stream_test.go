@@ -49,8 +49,9 @@ func TestMix(t *testing.T) { // 5.2, 5.3
 		if len(hidden) != n || Mix("k", "n", hidden) != text {
 			t.Errorf("Mix of %d bytes is not its own inverse", n)
 		}
+		keys := Take("k", "n", n)
 		for i := range n {
-			if i < 100 && hidden[i] != text[i]^Take("k", "n", n)[i] {
+			if hidden[i] != text[i]^keys[i] {
 				t.Errorf("byte %d of %d is wrong", i, n)
 			}
 		}
