@@ -323,6 +323,34 @@ func TestHolders(t *testing.T) { // 47.4, 47.6
 	}
 }
 
+// TestCaveatsOnlyNarrow: what a token with an additional caveat may do, it may do without it.
+func TestCaveatsOnlyNarrow(t *testing.T) { // P8
+	g := opened(t)
+	caveats := []string{"tenant acme", "endpoint query", "endpoint series", "class gold", "do query", "do write", "before 2", "after 1", "after 2", `match {env="prod"}`, `match {env=~"p.*", job!="x"}`, `match {job="x"}`}
+	values := []string{"", "prod", "p", "x"}
+	for _, a := range caveats {
+		for _, b := range append(caveats, "match {}") {
+			wide := mint(t, g, a)
+			narrow, _ := holder.Add(wide, b)
+			x, y := ask(t, g, query(wide, `{job=~".?"}`)), ask(t, g, query(narrow, `{job=~".?"}`))
+			if y.Code == api.OK && x.Code != api.OK {
+				t.Errorf("%s and %s allow what %s does not", a, b, a)
+			}
+			for _, env := range values {
+				for _, job := range values {
+					l := []api.Label{{Name: "env", Value: env}, {Name: "job", Value: job}}
+					if y.Code == api.OK && selector.Holds(y.Sel, l) && !selector.Holds(x.Sel, l) {
+						t.Errorf("%s and %s show %v, and %s does not", a, b, l, a)
+					}
+				}
+			}
+			if ask(t, g, write(narrow, "env", "prod", "job", "x")).Code == api.OK && ask(t, g, write(wide, "env", "prod", "job", "x")).Code != api.OK {
+				t.Errorf("%s and %s allow a write that %s does not", a, b, a)
+			}
+		}
+	}
+}
+
 func TestKeysAndEpochs(t *testing.T) { // 47.6
 	g := opened(t)
 	old := mint(t, g)

@@ -57,7 +57,7 @@ func TestPad(t *testing.T) { // 2.2
 		want string
 	}{
 		{"ab", 5, "ab\x00\x00\x00"}, {"ab", 2, "ab"}, {"ab", 1, "ab"}, {"ab", 0, "ab"}, {"ab", -1, "ab"},
-		{"", 3, "\x00\x00\x00"}, {"", math.MinInt, ""}, {long, math.MaxInt, long},
+		{"", 3, "\x00\x00\x00"}, {"", math.MinInt, ""}, {"ab", math.MinInt, "ab"}, {long, math.MaxInt, long},
 		{"a", 65536, "a" + strings.Repeat("\x00", 65535)},
 		{"a", 65537, "a" + strings.Repeat("\x00", 65535)},
 		{"a", math.MaxInt, "a" + strings.Repeat("\x00", 65535)},
