@@ -41,6 +41,17 @@ func TestFieldsInOrder(t *testing.T) { // 8.2, 8.4
 	}
 }
 
+func TestLastFields(t *testing.T) { // 8.2, 8.4
+	r := New("\x02ab")
+	if s := r.Text(2); s != "ab" || r.End() != api.OK {
+		t.Errorf("a string at the end: %q, error %d", s, r.Err())
+	}
+	r = New("a")
+	if b := r.Byte(); b != 'a' || r.End() != api.OK {
+		t.Errorf("a byte at the end: %d, error %d", b, r.Err())
+	}
+}
+
 func TestFirstError(t *testing.T) { // 8.2
 	takeByte := func(r *Reader) bool { return r.Byte() == 0 }
 	num := func(most uint64) func(*Reader) bool { return func(r *Reader) bool { return r.Num(most) == 0 } }
@@ -97,6 +108,9 @@ func TestEnd(t *testing.T) { // 8.3
 	r := New("ab")
 	if r.End() != api.ErrForm || r.Err() != api.ErrForm || r.Left() != 0 || r.Byte() != 0 {
 		t.Errorf("End with two bytes left: %d, then %d left", r.Err(), r.Left())
+	}
+	if r := New("a"); r.End() != api.ErrForm || r.Left() != 0 {
+		t.Error("a single byte that remains is no error")
 	}
 	if r := New(""); r.End() != api.OK || r.Byte() != 0 || r.End() != api.ErrEnd {
 		t.Error("wrong End of an empty string")

@@ -135,6 +135,18 @@ func TestMatch(t *testing.T) { // 15.1
 	}
 }
 
+// TestLengths: texts that end at, before and behind the end of a word of marks.
+func TestLengths(t *testing.T) { // 15.1, 15.2
+	for _, pattern := range []string{"a*", "a+", "(a|b)*", "(aa?)*", "a{0,1}(a{16})*a*"} {
+		for _, n := range []int{1, 62, 63, 64, 65, 126, 127, 128, 129} {
+			s := strings.Repeat("a", n)
+			if !Match(parse(t, pattern), s) || Match(parse(t, pattern), s+"c") || Match(parse(t, pattern), "c"+s) {
+				t.Errorf("%q is wrong for %d bytes", pattern, n)
+			}
+		}
+	}
+}
+
 func TestEnds(t *testing.T) { // 15.2
 	if got := Ends(parse(t, "a*"), "aab", 0); !slices.Equal(got, []int{0, 1, 2}) {
 		t.Errorf("the example's ends are %v", got)

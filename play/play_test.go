@@ -172,6 +172,11 @@ func TestAsking(t *testing.T) { // 50.1
 	}
 }
 
+// TestFirstLink: a third-party caveat can be the first link of a token.
+func TestFirstLink(t *testing.T) { // 50.1
+	plays(t, "ok 1\nok 1 token of 0\nok\nok\nok 1\nok\n", tenant("acme"), mint("acme"), api.Act{Kind: api.AThird, Of: 1, With: 9, Key: inner, Nonce: nonce}, api.Act{Kind: api.ADischarge, Of: 2, With: 9}, tick(1), asks(api.AAsk, 2, "{}", 3))
+}
+
 // TestExamples are the examples of DOC.md, as far as they are told there.
 func TestExamples(t *testing.T) { // 50.1
 	plays(t, "ok 1\ntwice\nok 1 token of 0\nok 2 token of 0\n", tenant("acme"), tenant("acme"), mint("acme"), mint("acme")) // 1, 2

@@ -81,7 +81,7 @@ func TestParse(t *testing.T) { // 13.2
 		{"a*", rep(a, 0, -1)}, {"a+", rep(a, 1, -1)}, {"a?", rep(a, 0, 1)}, {"a{1}", rep(a, 1, 1)}, {"a{16}", rep(a, 16, 16)}, {"a{0,}", rep(a, 0, -1)}, {"a{16,}", rep(a, 16, -1)}, {"a{0,1}", rep(a, 0, 1)}, {"a{2,2}", rep(a, 2, 2)}, {"a{3,16}", rep(a, 3, 16)}, {"a{10,12}b", cat(rep(a, 10, 12), b)},
 		{".", set(0, 255)}, {`\.\\\[\]\(\)\{\}\|\*\+\?\-\^`, cat(bytes("."), bytes(`\`), bytes("["), bytes("]"), bytes("("), bytes(")"), bytes("{"), bytes("}"), bytes("|"), bytes("*"), bytes("+"), bytes("?"), bytes("-"), bytes("^"))},
 		{`\x41\x0a\xff`, cat(bytes("A"), bytes("\n"), bytes("\xff"))}, {`\d`, set('0', '9')}, {`\w`, word}, {"-^$, \xff\n\"", cat(bytes("-"), bytes("^"), bytes("$"), bytes(","), bytes(" "), bytes("\xff"), bytes("\n"), bytes("\""))},
-		{"[a]", a}, {"[abc]", set('a', 'c')}, {"[a-c]", set('a', 'c')}, {"[a-a]", a}, {"[^a]", not(a)}, {"[^a-cx]", not(bytes("abcx"))}, {`[\d_a]`, bytes("0123456789_a")}, {`[\w-]`, node{}}, {`[\w\-]`, one(charset.Or(word.Set, bytes("-").Set))},
+		{"[a]", a}, {"[abc]", set('a', 'c')}, {"[a-c]", set('a', 'c')}, {"[a-a]", a}, {"[^a]", not(a)}, {"[^a-cx]", not(bytes("abcx"))}, {`[\d_a]`, bytes("0123456789_a")}, {`[\w-]`, node{}}, {`[\w-z]`, node{}}, {`[\d-9]`, node{}}, {`[\w\-]`, one(charset.Or(word.Set, bytes("-").Set))},
 		{`[\d\w]`, word}, {`[^\x00-\xff]`, one(api.Set{})}, {`[\x61-\x63]`, set('a', 'c')}, {`[.*+?(){}|$,]`, bytes(".*+?(){}|$,")}, {`[\[\]\-\^\\]`, bytes(`[]-^\`)}, {`[\--\.]`, set('-', '.')}, {"[\x80-\xff]", set(128, 255)}, {`[a-c-e]`, node{}}, {`[a-cb-d]`, set('a', 'd')},
 	} {
 		n, f := Parse(x.s)

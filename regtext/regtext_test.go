@@ -83,6 +83,9 @@ func TestTextRefuses(t *testing.T) { // 14.2
 	if got, ok := Text(cat(long...)); len(got) != 256 || !ok {
 		t.Errorf("256 bytes: %d, %v", len(got), ok)
 	}
+	if got, ok := Text(alt(cat(long[1:]...), cat())); len(got) != 256 || !ok {
+		t.Errorf("255 bytes and a bar: %d, %v", len(got), ok)
+	}
 	if got, ok := Text(nested(16)); !strings.HasPrefix(got, strings.Repeat("(", 16)+"a?") || !ok {
 		t.Errorf("16 parentheses: %q, %v", got, ok)
 	}

@@ -73,6 +73,19 @@ func TestOnlyValueTooLong(t *testing.T) { // 26.1
 	}
 }
 
+// TestLongestOnlyValue: a single string of 1024 bytes is a value still.
+func TestLongestOnlyValue(t *testing.T) { // 26.1
+	l := selector.Order([]api.Matcher{of("a", api.Like, "((a{16}){15}a{8}){2}c.*"), of("a", api.Like, "[^c]*c(b{16}){16}b{13}d.*"), of("a", api.Like, "[^d]*d(e{16}){16}e")})
+	want := strings.Repeat("a", 496) + "c" + strings.Repeat("b", 269) + "d" + strings.Repeat("e", 257)
+	if got, e := One(l); e != api.OK || !slices.Equal(got, []api.Matcher{of("a", api.Is, want)}) {
+		t.Errorf("%v, error %d", got, e)
+	}
+	longer := selector.Order(append(slices.Clone(l[:2]), of("a", api.Like, "[^d]*d(e{16}){16}ee")))
+	if got, e := One(longer); e != api.OK || len(got) != 3 {
+		t.Errorf("%v, error %d", got, e)
+	}
+}
+
 func TestEmit(t *testing.T) { // 26.2
 	for _, c := range []struct {
 		asked, held, want string
@@ -176,14 +189,16 @@ func TestProperties(t *testing.T) { // 26.3
 }
 
 func TestListsShareNothing(t *testing.T) {
-	l := parse(t, `{a!="x", a=~".+", a=~"[ab]*"}`)
-	before := slices.Clone(l)
-	got, _ := One(l)
-	for i := range got {
-		got[i].Value = "changed"
-	}
-	_ = append(got[:1], of("z", 1, "z"))
-	if !slices.Equal(l, before) {
-		t.Error("the result shares memory with the argument")
+	for _, s := range []string{`{a!="x", a=~".+", a=~"[ab]*"}`, `{a!="x", a=~"[xy]*"}`, `{a!="x"}`} {
+		l := parse(t, s)
+		before := slices.Clone(l)
+		got, _ := One(l)
+		for i := range got {
+			got[i].Value = "changed"
+		}
+		_ = append(got[:1], of("z", 1, "z"))
+		if !slices.Equal(l, before) {
+			t.Errorf("the result for %s shares memory with the argument", s)
+		}
 	}
 }

@@ -179,6 +179,9 @@ func TestFull(t *testing.T) { // 44.2, 44.3
 	if e := s.Commit(tenants("b", "c", "d")); e != api.OK || s.Gen() != 3 || s.End() != 2 {
 		t.Errorf("Commit of three tenants: error %d, generation %d, end %d", e, s.Gen(), s.End())
 	}
+	if e := s.Compact(); e != api.OK || s.Gen() != 4 || s.End() != s.Half() {
+		t.Errorf("Compact of an image as large as an area: error %d, generation %d, end %d", e, s.Gen(), s.End())
+	}
 }
 
 func TestCompact(t *testing.T) { // 44.3
@@ -264,6 +267,7 @@ func TestGenerations(t *testing.T) { // 44.1
 		{func(d *disk.Disk) {
 			entry.Write(d, 10, 7, 0, 1, batch([]api.Event{{Kind: api.EKey, Tenant: "a", Num: 1, Text: text}}))
 		}, 0, 1, 1}, // cannot be applied
+		{func(d *disk.Disk) { entry.Write(d, 10, 7, 0, 1, batch(append(tenants("b", "a"), serial(5)...))) }, 0, 1, 1}, // in another order than an image
 		{func(d *disk.Disk) {
 			entry.Write(d, 10, 7, 0, 1, image)
 			entry.Write(d, 10, 7, 1, 2, batch(serial(6)))

@@ -126,6 +126,28 @@ func TestDischarges(t *testing.T) { // 37.1, 37.2
 	check(t, "a seal of another tag", holder.Bundle(bad, d), api.ErrDischarge, 3+1)
 }
 
+// TestSealsWithoutDischarges: a third-party link is never passed over.
+func TestSealsWithoutDischarges(t *testing.T) { // 37.1
+	for _, seal := range []string{"seal", strings.Repeat("s", 48), third(t, token("a"), notaryA, "x").Links[1].Seal} {
+		bad := token("b")
+		bad.Links = append(bad.Links, api.Link{Text: "t", Seal: seal})
+		bad.Tag = chain.Last(key, bad)
+		check(t, "a seal that is not opened", api.Bundle{Token: bad}, api.ErrDischarge, 3+1)
+	}
+}
+
+func TestMostDischarges(t *testing.T) { // 37.1
+	tok := token()
+	var more []api.Token
+	var want []string
+	for i := range 8 {
+		tok = third(t, tok, notaryA, fmt.Sprint("ticket", i))
+		more = append(more, discharge(t, tok, notaryA, fmt.Sprint("d", i)))
+		want = append(want, fmt.Sprint("d", i))
+	}
+	check(t, "8 discharges", holder.Bundle(tok, more...), api.OK, 9+8*(1+2+1), want...)
+}
+
 func TestSeveralDischarges(t *testing.T) { // 37.1, 37.2
 	tok := third(t, token("a"), notaryA, "one")
 	first := discharge(t, tok, notaryA, "x")
