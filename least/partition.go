@@ -89,14 +89,11 @@ func (p *partition) mark(back sources, states []int, class int) []int {
 	for _, state := range states {
 		for _, source := range back.of(class, state) {
 			group := p.group[source]
-			free := p.from[group] + p.marked[group]
-			if p.place[source] < free {
-				continue
-			}
-			p.swap(p.place[source], free)
 			if p.marked[group] == 0 {
 				touched = append(touched, group)
 			}
+			// No state is marked twice: it leads to one state alone by this class.
+			p.swap(p.place[source], p.from[group]+p.marked[group])
 			p.marked[group]++
 		}
 	}

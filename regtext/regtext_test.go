@@ -89,6 +89,14 @@ func TestTextRefuses(t *testing.T) { // 14.2
 	if got, ok := Text(nested(16)); !strings.HasPrefix(got, strings.Repeat("(", 16)+"a?") || !ok {
 		t.Errorf("16 parentheses: %q, %v", got, ok)
 	}
+	// Parentheses one after the other are not open at the same time.
+	pairs := make([]node, 20)
+	for i := range pairs {
+		pairs[i] = alt(one("a"), one("b"))
+	}
+	if got, ok := Text(cat(pairs...)); got != strings.Repeat("(a|b)", 20) || !ok {
+		t.Errorf("20 pairs of parentheses: %q, %v", got, ok)
+	}
 	// Escaped parentheses and those within brackets are not open.
 	if got, ok := Text(cat(one("("), one("("), one("()"), nested(16))); !ok || !strings.HasPrefix(got, `\(\([()]((`) {
 		t.Errorf("other parentheses: %q, %v", got, ok)

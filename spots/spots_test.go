@@ -43,7 +43,8 @@ func TestCount(t *testing.T) { // 16.1
 			t.Errorf("Count of %q is %d, want %d", s, got, want)
 		}
 	}
-	for _, n := range []node{{}, {Kind: api.Cat, Kids: []node{{}}}, {Kind: api.Rep}} {
+	a := parse(t, "a")
+	for _, n := range []node{{}, {Kind: api.Cat, Kids: []node{{}}}, {Kind: api.Rep}, {Kind: api.Cat, Kids: []node{a}}, {Kind: api.Alt, Kids: []node{a}}, {Kind: api.Rep, Kids: []node{a}, Min: 17, Max: 17}, {Kind: api.Alt, Kids: []node{a, {}}}} {
 		if Count(n) != 0 {
 			t.Errorf("the invalid tree %v has positions", n)
 		}

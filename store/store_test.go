@@ -175,6 +175,11 @@ func TestFull(t *testing.T) { // 44.2, 44.3
 	if e := s.Commit(serial(9)); e != api.OK || s.State().Serial != 9 || s.Gen() != 2 || s.End() != 1 {
 		t.Errorf("Commit after ErrFull: error %d", e)
 	}
+	// From here it would be switched to the first area, behind which there are blocks, but not its own.
+	before := show(s.State())
+	if e := s.Commit(tenants("b", "c", "d", "e", "f")); e != api.ErrFull || show(s.State()) != before || s.Gen() != 2 {
+		t.Errorf("Commit of too much for the first area: error %d", e)
+	}
 	// What does not fit behind the end fits into an area, or the other way round.
 	if e := s.Commit(tenants("b", "c", "d")); e != api.OK || s.Gen() != 3 || s.End() != 2 {
 		t.Errorf("Commit of three tenants: error %d, generation %d, end %d", e, s.Gen(), s.End())
@@ -268,6 +273,9 @@ func TestGenerations(t *testing.T) { // 44.1
 			entry.Write(d, 10, 7, 0, 1, batch([]api.Event{{Kind: api.EKey, Tenant: "a", Num: 1, Text: text}}))
 		}, 0, 1, 1}, // cannot be applied
 		{func(d *disk.Disk) { entry.Write(d, 10, 7, 0, 1, batch(append(tenants("b", "a"), serial(5)...))) }, 0, 1, 1}, // in another order than an image
+		{func(d *disk.Disk) { entry.Write(d, 10, 7, 0, 1, batch(append(serial(5), serial(5)...))) }, 0, 1, 1},         // more than an image
+		{func(d *disk.Disk) { entry.Write(d, 10, 7, 0, 1, batch(tenant("a"))) }, 0, 1, 1},                             // less than an image
+		{func(d *disk.Disk) { entry.Write(d, 10, 7, 0, 1, batch(nil)) }, 0, 1, 1},                                     // nothing
 		{func(d *disk.Disk) {
 			entry.Write(d, 10, 7, 0, 1, image)
 			entry.Write(d, 10, 7, 1, 2, batch(serial(6)))
